@@ -480,9 +480,23 @@ func TestAddLimbBuildsABody(t *testing.T) {
 	checkRejected(t, b, 0, 1)
 }
 
-// TestLimbArgumentsAreLeftUnchanged gives the list spare capacity, which is
-// part of what is left unchanged.
 func TestLimbArgumentsAreLeftUnchanged(t *testing.T) {
+	checkBodiesUnchanged(t, func(b impl.Body) {
+		impl.BodyOk(b)
+		impl.EndsOf(b)
+		impl.LengthOf(b)
+		for j := -1; j <= 12; j++ {
+			impl.LimbsAt(b, j)
+			impl.AddLimb(b, j, 8)
+			impl.AddLimb(b, j, 0)
+		}
+	})
+}
+
+// checkBodiesUnchanged calls use with valid and invalid bodies. Their lists have
+// spare capacity, which is part of what is left unchanged.
+func checkBodiesUnchanged(t *testing.T, use func(b impl.Body)) {
+	t.Helper()
 	bodies := validBodies()
 	for _, c := range invalidBodies() {
 		bodies = append(bodies, c.body)
@@ -490,15 +504,7 @@ func TestLimbArgumentsAreLeftUnchanged(t *testing.T) {
 	for _, b := range bodies {
 		roomy := append(slices.Clone(b.Limbs), impl.Limb{A: 70, B: 71, Length: 72}, impl.Limb{A: 73, B: 74, Length: 75})
 		before := slices.Clone(roomy)
-		arg := impl.Body{Joints: b.Joints, Limbs: roomy[:len(b.Limbs)]}
-		impl.BodyOk(arg)
-		impl.EndsOf(arg)
-		impl.LengthOf(arg)
-		for j := -1; j <= 12; j++ {
-			impl.LimbsAt(arg, j)
-			impl.AddLimb(arg, j, 8)
-			impl.AddLimb(arg, j, 0)
-		}
+		use(impl.Body{Joints: b.Joints, Limbs: roomy[:len(b.Limbs)]})
 		if !slices.Equal(roomy, before) {
 			t.Errorf("%v: the argument is changed to %v", b, roomy)
 		}
