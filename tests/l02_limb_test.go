@@ -216,18 +216,24 @@ func TestBodyOkOfAllSmallBodies(t *testing.T) {
 
 // forAllEnds calls visit with all lists of twice as many numbers as limbs.
 func forAllEnds(limbs int, low int, high int, visit func(ends []int)) {
-	ends := slices.Repeat([]int{low}, 2*limbs)
+	forAllLists(2*limbs, low, high, visit)
+}
+
+// forAllLists calls visit with all lists of this many numbers from low to high.
+// It hands out copies, as a change of its own list might keep it from ending.
+func forAllLists(count int, low int, high int, visit func(list []int)) {
+	list := slices.Repeat([]int{low}, count)
 	for {
-		visit(ends)
+		visit(slices.Clone(list))
 		i := 0
-		for i < len(ends) && ends[i] == high {
-			ends[i] = low
+		for i < count && list[i] == high {
+			list[i] = low
 			i++
 		}
-		if i == len(ends) {
+		if i == count {
 			return
 		}
-		ends[i]++
+		list[i]++
 	}
 }
 
