@@ -700,6 +700,20 @@ func roomyCrosses(list []impl.Cross) ([]impl.Cross, []impl.Cross) {
 	return all[:len(list)], all
 }
 
+// watchedCrosses has a roomy list, and a check that tells who has changed it or
+// what is behind it.
+func watchedCrosses(t *testing.T, list []impl.Cross) ([]impl.Cross, func(by string)) {
+	watched, all := roomyCrosses(list)
+	want := slices.Clone(all)
+	return watched, func(by string) {
+		t.Helper()
+		if !slices.Equal(all, want) {
+			t.Errorf("%s changes %v to %v", by, want, all)
+			copy(all, want)
+		}
+	}
+}
+
 // overwriteCrosses changes the crossings, also behind the end of the list.
 func overwriteCrosses(list []impl.Cross) {
 	all := list[:cap(list)]
@@ -722,14 +736,7 @@ func someCrosses() []namedCrosses {
 
 func TestCrossArgumentsAreLeftUnchanged(t *testing.T) {
 	for _, c := range someCrosses() {
-		list, all := roomyCrosses(c.list)
-		check := func(by string) {
-			t.Helper()
-			if _, want := roomyCrosses(c.list); !slices.Equal(all, want) {
-				t.Errorf("%s changes %v to %v", by, want, all)
-				copy(all, want)
-			}
-		}
+		list, check := watchedCrosses(t, c.list)
 		impl.CrossesOk(c.n, list)
 		check("CrossesOk")
 		impl.OrderAfter(c.n, list)
@@ -749,21 +756,14 @@ func TestCrossArgumentsAreLeftUnchanged(t *testing.T) {
 
 func TestCrossesAreNewMemory(t *testing.T) {
 	for _, c := range someCrosses() {
-		list, all := roomyCrosses(c.list)
-		check := func(of string) {
-			t.Helper()
-			if _, want := roomyCrosses(c.list); !slices.Equal(all, want) {
-				t.Errorf("a change of %s changes the argument %v to %v", of, want, all)
-				copy(all, want)
-			}
-		}
+		list, check := watchedCrosses(t, c.list)
 		overwriteCrosses(impl.UndoCrosses(list))
-		check("UndoCrosses")
+		check("a change of UndoCrosses")
 		overwriteCrosses(impl.Reduced(c.n, list))
-		check("Reduced")
+		check("a change of Reduced")
 		overwritePoses([][]int{impl.OrderAfter(c.n, list)})
 		overwritePoses(impl.PairsOf(c.n, list))
-		check("OrderAfter or PairsOf")
+		check("a change of OrderAfter or PairsOf")
 	}
 }
 
