@@ -598,31 +598,39 @@ func checkFirstCasting(t *testing.T, list []impl.Player, puppets []int) bool {
 	return ok
 }
 
-// TestFirstCastingOfAllPlayers tries all kinds of up to three players for all
-// kinds of up to three puppets.
-func TestFirstCastingOfAllPlayers(t *testing.T) {
+// forAllPlayers visits all kinds of up to three players who know some of these
+// puppets.
+func forAllPlayers(puppets []int, visit func(list []impl.Player)) {
 	var kinds []impl.Player
 	for free := range 3 {
-		for _, knows := range subsetsOf(0, 3, 6) {
+		for _, knows := range subsetsOf(puppets...) {
 			kinds = append(kinds, impl.Player{Knows: knows, Free: free})
 		}
 	}
-	cast, open := 0, 0
 	for count := 1; count <= 3; count++ {
 		forAllLists(count, 0, len(kinds)-1, func(numbers []int) {
 			var list []impl.Player
 			for _, n := range numbers {
 				list = append(list, kinds[n])
 			}
-			for _, puppets := range subsetsOf(0, 3, 6) {
-				if checkFirstCasting(t, list, puppets) {
-					cast++
-				} else {
-					open++
-				}
-			}
+			visit(list)
 		})
 	}
+}
+
+// TestFirstCastingOfAllPlayers tries all kinds of up to three players for all
+// kinds of up to three puppets.
+func TestFirstCastingOfAllPlayers(t *testing.T) {
+	cast, open := 0, 0
+	forAllPlayers([]int{0, 3, 6}, func(list []impl.Player) {
+		for _, puppets := range subsetsOf(0, 3, 6) {
+			if checkFirstCasting(t, list, puppets) {
+				cast++
+			} else {
+				open++
+			}
+		}
+	})
 	if cast < 10000 || open < 10000 {
 		t.Errorf("there are only %d castings, and %d lists without one", cast, open)
 	}
