@@ -172,6 +172,22 @@ func strangePuppets() [][]int {
 		{0, math.MaxInt}, {math.MinInt, 0}, sortedOrder(8), reversedOrder(7), counted(7, 1, 1), make([]int, 10000), sortedOrder(10000)}
 }
 
+// forManyPuppets visits lists of all kinds, strictly ascending ones and others, of
+// numbers that are puppets and of others.
+func forManyPuppets(visit func(puppets []int)) {
+	for count := range 4 {
+		forAllLists(count, -1, 7, visit)
+	}
+	for _, n := range numbersAround(0, 6) {
+		for _, puppets := range [][]int{{n}, {n, 6}, {0, n}, {0, 3, n}} {
+			visit(puppets)
+		}
+	}
+	for _, puppets := range subsetsOf(sortedOrder(8)...) {
+		visit(puppets)
+	}
+}
+
 // castFits counts, for each player, its puppets.
 func castFits(list []impl.Player, puppets []int, cast []int) bool {
 	if len(cast) != len(puppets) {
@@ -253,27 +269,14 @@ func TestPlayersOkFree(t *testing.T) {
 }
 
 func TestPlayersOkKnows(t *testing.T) {
-	check := func(knows []int) {
-		t.Helper()
+	forManyPuppets(func(knows []int) {
 		for i := range 3 {
 			list := withKnows(players("0/1 -/0 5,6/2"), i, knows...)
 			if got := impl.PlayersOk(list); got != isRising(knows, 7) {
 				t.Errorf("PlayersOk of %s is %v", playersText(list), got)
 			}
 		}
-	}
-	for count := range 4 {
-		forAllLists(count, -1, 7, check)
-	}
-	for _, n := range numbersAround(0, 6) {
-		check([]int{n})
-		check([]int{n, 6})
-		check([]int{0, n})
-		check([]int{0, 3, n})
-	}
-	for _, knows := range subsetsOf(sortedOrder(8)...) {
-		check(knows)
-	}
+	})
 }
 
 func TestHandsFree(t *testing.T) {

@@ -650,26 +650,13 @@ func TestProofsOfStrangePuppets(t *testing.T) {
 		}
 	}
 	list := players("0,1/1 1,2/2 6/0")
-	check := func(puppets []int) {
-		t.Helper()
+	forManyPuppets(func(puppets []int) {
 		if isRising(puppets, 7) {
 			checkProof(t, list, puppets)
 		} else {
 			checkNoProof(t, playersText(list), list, puppets)
 		}
-	}
-	for count := range 4 {
-		forAllLists(count, -1, 7, check)
-	}
-	for _, n := range numbersAround(0, 6) {
-		check([]int{n})
-		check([]int{n, 6})
-		check([]int{0, n})
-		check([]int{0, 3, n})
-	}
-	for _, puppets := range subsetsOf(sortedOrder(8)...) {
-		check(puppets)
-	}
+	})
 }
 
 // TestProofsForInvalidKnows has lists of Knows of all kinds for one player.
